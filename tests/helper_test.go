@@ -1,6 +1,7 @@
 package tests
 
 import (
+	"iter"
 	"slices"
 	"testing"
 
@@ -18,6 +19,11 @@ func link(from int, to int, images ...int) impl.Coercion {
 	return impl.Coercion{From: from, To: to, Map: images}
 }
 
+// function returns a function.
+func function(name string, args []int, result int, table ...int) impl.Function {
+	return impl.Function{Name: name, Args: args, Result: result, Table: table}
+}
+
 // typesOf returns the types of a text that must be valid.
 func typesOf(t *testing.T, text string) impl.Types {
 	t.Helper()
@@ -28,9 +34,48 @@ func typesOf(t *testing.T, text string) impl.Types {
 	return types
 }
 
+// systemOf returns the system of a text that must be valid.
+func systemOf(t *testing.T, text string) impl.System {
+	t.Helper()
+	s, ok := impl.ParseSystem(text)
+	if !ok {
+		t.Fatalf("ParseSystem(%q) returns false", text)
+	}
+	return s
+}
+
 // isZero reports whether types are the zero value.
 func isZero(types impl.Types) bool {
 	return len(types.Sizes) == 0 && len(types.Coercions) == 0
+}
+
+// isZeroSystem reports whether a system is the zero value.
+func isZeroSystem(s impl.System) bool {
+	return isZero(s.Types) && len(s.Functions) == 0
+}
+
+// edits yields the beginnings of a text, and the text with each byte in each place, beside what is there and instead of
+// it, and without what is there.
+func edits(text string) iter.Seq[string] {
+	return func(yield func(string) bool) {
+		for i := range len(text) + 1 {
+			list := []string{text[:i]}
+			for sign := range 256 {
+				list = append(list, text[:i]+string([]byte{byte(sign)})+text[i:])
+				if i < len(text) {
+					list = append(list, text[:i]+string([]byte{byte(sign)})+text[i+1:])
+				}
+			}
+			if i < len(text) {
+				list = append(list, text[:i]+text[i+1:])
+			}
+			for _, edit := range list {
+				if !yield(edit) {
+					return
+				}
+			}
+		}
+	}
 }
 
 // spare returns numbers in a slice that has unused capacity, filled with a mark.
@@ -70,6 +115,50 @@ func typesCells(types impl.Types) []*int {
 		cells = append(cells, numberCells(full[i].Map)...)
 	}
 	return cells
+}
+
+// spareSystem returns a system of the same text, of which each slice has unused capacity that is filled.
+func spareSystem(s impl.System) impl.System {
+	c := impl.System{Types: spareTypes(s.Types)}
+	for _, f := range s.Functions {
+		f.Args, f.Table = spare(f.Args...), spare(f.Table...)
+		c.Functions = append(c.Functions, f)
+	}
+	n := len(c.Functions)
+	c.Functions = append(c.Functions, function("-", spare(-7), -7, spare(-7)...), function("-", spare(-7), -7, spare(-7)...))[:n]
+	return c
+}
+
+// systemCells returns the places of all numbers of a system, unused capacity included.
+func systemCells(s impl.System) []*int {
+	cells := typesCells(s.Types)
+	full := s.Functions[:cap(s.Functions)]
+	for i := range full {
+		cells = append(cells, &full[i].Result)
+		cells = append(cells, numberCells(full[i].Args)...)
+		cells = append(cells, numberCells(full[i].Table)...)
+	}
+	return cells
+}
+
+// namesAt returns the names of the functions of a system, unused capacity included.
+func namesAt(s impl.System) []string {
+	var list []string
+	for _, f := range s.Functions[:cap(s.Functions)] {
+		list = append(list, f.Name)
+	}
+	return list
+}
+
+// overwriteSystem overwrites all that a system has, unused capacity included.
+func overwriteSystem(s impl.System) {
+	for _, cell := range systemCells(s) {
+		*cell = -7
+	}
+	full := s.Functions[:cap(s.Functions)]
+	for i := range full {
+		full[i].Name = "-"
+	}
 }
 
 // numbersAt returns what stands at places.

@@ -321,20 +321,11 @@ func checkText(t *testing.T, text string) {
 	}
 }
 
-// TestParseTypesOfEdits puts each byte in each place of good texts, beside what is there and instead of it.
+// TestParseTypesOfEdits tries all texts that are nearly good ones.
 func TestParseTypesOfEdits(t *testing.T) {
 	for _, text := range goodTexts {
-		for i := range len(text) + 1 {
-			checkText(t, text[:i])
-			for sign := range 256 {
-				checkText(t, text[:i]+string([]byte{byte(sign)})+text[i:])
-				if i < len(text) {
-					checkText(t, text[:i]+string([]byte{byte(sign)})+text[i+1:])
-				}
-			}
-			if i < len(text) {
-				checkText(t, text[:i]+text[i+1:])
-			}
+		for edit := range edits(text) {
+			checkText(t, edit)
 		}
 	}
 }
