@@ -4,6 +4,7 @@ import (
 	"iter"
 	"slices"
 	"testing"
+	"unsafe"
 
 	"loop.example/overloads/impl"
 )
@@ -96,14 +97,24 @@ func spareTypes(types impl.Types) impl.Types {
 	return c
 }
 
-// numberCells returns the places of all numbers of a list, unused capacity included.
-func numberCells(list []int) []*int {
-	var cells []*int
+// cellsOf returns the places of all elements of a list, unused capacity included.
+func cellsOf[T any](list []T) []*T {
+	var cells []*T
 	full := list[:cap(list)]
 	for i := range full {
 		cells = append(cells, &full[i])
 	}
 	return cells
+}
+
+// numberCells returns the places of all numbers of a list, unused capacity included.
+func numberCells(list []int) []*int {
+	return cellsOf(list)
+}
+
+// byteCells returns the places of all bytes of a text.
+func byteCells(text string) []*byte {
+	return cellsOf(unsafe.Slice(unsafe.StringData(text), len(text)))
 }
 
 // typesCells returns the places of all numbers of types, unused capacity included.
@@ -171,9 +182,9 @@ func numbersAt(cells []*int) []int {
 }
 
 // checkApart reports a place that occurs twice, in one list or in two.
-func checkApart(t *testing.T, lists ...[]*int) {
+func checkApart[T any](t *testing.T, lists ...[]*T) {
 	t.Helper()
-	owner := map[*int]int{}
+	owner := map[*T]int{}
 	for i, cells := range lists {
 		for _, cell := range cells {
 			if k, ok := owner[cell]; ok {
