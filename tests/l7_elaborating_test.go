@@ -433,9 +433,9 @@ func TestMadeOrdinary(t *testing.T) {
 	}
 }
 
-func TestTextsThatAreNotMade(t *testing.T) {
-	s := systemOf(t, mixed)
-	for _, text := range []string{
+// textsOfNoMade are texts that are no explicit terms in the system mixed.
+func textsOfNoMade() []string {
+	return []string{
 		// No text, or none of an explicit term.
 		"", " ", "x", "0", ":", "0:", ":0", "00:0", "0:00", "0:0 ", " 0:0", "0:0\n", "-0:0", "0:-0", "0;0", "(0:0)", "()", ",", "0:0,0:0", "0:00:0",
 		// Terms that are not explicit.
@@ -457,7 +457,12 @@ func TestTextsThatAreNotMade(t *testing.T) {
 		// The signs the other way round, or other ones.
 		"@#0(0:0)", "#@0(0:0)", "##0(0:0)", "@@3()", "0@()", "0#(0:0)", "$0(0:0)", "&3()", "!3()", "\x00", "@3()\x00", "@3(\x00)", "\xff", "#0(0:0)\xff", "＠3()", "＃0(0:0)", "@٣()", "#0（0:0）", "@2(1:0，1:0)",
 		strings.Repeat("#0(", 1000000), strings.Repeat("@0(", 1000000), strings.Repeat("@2(1:0,", 100000), strings.Repeat("#", 1000000), strings.Repeat("@3()", 100000), strings.Repeat("0:0", 100), "0:0" + strings.Repeat(" ", 397),
-	} {
+	}
+}
+
+func TestTextsThatAreNotMade(t *testing.T) {
+	s := systemOf(t, mixed)
+	for _, text := range textsOfNoMade() {
 		checkNoMade(t, s, text)
 	}
 }
