@@ -195,3 +195,14 @@ func checkApart[T any](t *testing.T, lists ...[]*T) {
 		}
 	}
 }
+
+// checkSeen reports kinds of which fewer were seen than there must be for a test to tell anything.
+func checkSeen(t *testing.T, seen map[string]int, enough int, kinds ...string) {
+	t.Helper()
+	for _, kind := range kinds {
+		t.Log(kind, seen[kind])
+		if seen[kind] < enough {
+			t.Errorf("%s: %d are too few", kind, seen[kind])
+		}
+	}
+}

@@ -697,30 +697,36 @@ func TestGoodGivenSystems(t *testing.T) {
 }
 
 // someGoodSystem returns a pseudo-random system that is good by the definition, with as many functions as fit of those that
-// were tried; results are chosen so that they agree with the functions that there are, if they can.
+// were tried.
 func someGoodSystem(source *rand.Rand, coercions int, names int) impl.System {
 	s := impl.System{Types: someTypes(source, coercions)}
 	for reachOf(s.Types).doubt {
 		s.Types = someTypes(source, coercions)
 	}
-	r := reachOf(s.Types)
 	for range 40 {
-		f := someFunction(source, s.Types)
-		f.Name = string(rune('f' + source.Intn(names)))
-		for row, values := range valueRows(s, f) {
-			first := source.Intn(s.Sizes[f.Result])
-			for n := range s.Sizes[f.Result] {
-				f.Table[row] = (first + n) % s.Sizes[f.Result]
-				if agrees(s, r, f, row, values) {
-					break
-				}
-			}
-		}
+		f := someAgreeing(source, s, names)
 		if more, ok := impl.WithFunction(s, f); ok && judgedByDefinition(more) == (judgement{}) {
 			s = more
 		}
 	}
 	return s
+}
+
+// someAgreeing returns a pseudo-random function whose results agree with the functions of a system, where they can.
+func someAgreeing(source *rand.Rand, s impl.System, names int) impl.Function {
+	r := reachOf(s.Types)
+	f := someFunction(source, s.Types)
+	f.Name = string(rune('f' + source.Intn(names)))
+	for row, values := range valueRows(s, f) {
+		first := source.Intn(s.Sizes[f.Result])
+		for n := range s.Sizes[f.Result] {
+			f.Table[row] = (first + n) % s.Sizes[f.Result]
+			if agrees(s, r, f, row, values) {
+				break
+			}
+		}
+	}
+	return f
 }
 
 // agrees reports whether the result of a function for values is consistent with all functions of a system.
