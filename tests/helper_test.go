@@ -2,6 +2,7 @@ package tests
 
 import (
 	"iter"
+	"runtime"
 	"slices"
 	"testing"
 	"unsafe"
@@ -205,4 +206,17 @@ func checkSeen(t *testing.T, seen map[string]int, enough int, kinds ...string) {
 			t.Errorf("%s: %d are too few", kind, seen[kind])
 		}
 	}
+}
+
+// checkGoroutines reports that there are more goroutines than before some calls, some while after them.
+func checkGoroutines(t *testing.T, before int) {
+	t.Helper()
+	// The last ones may not have ended yet, though their values have come.
+	for range 1000000 {
+		if runtime.NumGoroutine() <= before {
+			return
+		}
+		runtime.Gosched()
+	}
+	t.Errorf("there were %d goroutines and are %d", before, runtime.NumGoroutine())
 }

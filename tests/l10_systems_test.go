@@ -928,11 +928,5 @@ func TestGoodLeavesNoGoroutines(t *testing.T) {
 		impl.IsGood(s)
 		impl.FaultsOf(s)
 	}
-	for range 1000000 {
-		if runtime.NumGoroutine() <= before {
-			return
-		}
-		runtime.Gosched()
-	}
-	t.Errorf("there were %d goroutines and are %d", before, runtime.NumGoroutine())
+	checkGoroutines(t, before)
 }

@@ -1208,12 +1208,5 @@ func TestChangesLeaveNoGoroutines(t *testing.T) {
 		impl.BrokenOf(s, impl.System{}, terms)
 		impl.CompareTerm(s, s, terms[0])
 	}
-	// The last ones may not have ended yet, though their values have come.
-	for range 1000000 {
-		if runtime.NumGoroutine() <= before {
-			return
-		}
-		runtime.Gosched()
-	}
-	t.Errorf("there were %d goroutines and are %d", before, runtime.NumGoroutine())
+	checkGoroutines(t, before)
 }

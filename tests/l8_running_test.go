@@ -786,12 +786,5 @@ func TestRunningLeavesNoGoroutines(t *testing.T) {
 		impl.RunTerm(s, "g(f(0:1),1:2)")
 		impl.RunAt(s, "g(f(0:1),1:2)", 0)
 	}
-	// The last ones may not have ended yet, though their values have come.
-	for range 1000000 {
-		if runtime.NumGoroutine() <= before {
-			return
-		}
-		runtime.Gosched()
-	}
-	t.Errorf("there were %d goroutines and are %d", before, runtime.NumGoroutine())
+	checkGoroutines(t, before)
 }

@@ -884,12 +884,5 @@ func TestAllWaysLeaveNoGoroutines(t *testing.T) {
 			impl.CheapestMade(s, term, 1)
 		}
 	}
-	// The last ones may not have ended yet, though their values have come.
-	for range 1000000 {
-		if runtime.NumGoroutine() <= before {
-			return
-		}
-		runtime.Gosched()
-	}
-	t.Errorf("there were %d goroutines and are %d", before, runtime.NumGoroutine())
+	checkGoroutines(t, before)
 }
